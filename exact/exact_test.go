@@ -207,7 +207,7 @@ func TestE2Dot(t *testing.T) {
 	}
 }
 
-func TestListsStayAsTheyAre(t *testing.T) {
+func TestX2ListsStayAsTheyAre(t *testing.T) {
 	a, b := some(), some()
 	slices.Reverse(b)
 	first, second := slices.Clone(a), slices.Clone(b)

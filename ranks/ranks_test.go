@@ -243,7 +243,7 @@ func TestR3ParseOfPrint(t *testing.T) {
 }
 
 // No two lists of an answer may share memory: what is laid behind one is not to be seen in another.
-func TestAnswersShareNothing(t *testing.T) {
+func TestX2AnswersShareNothing(t *testing.T) {
 	text := "left a : x y\nleft b : y\nright x : a b\nright y : b\n"
 	p, _ := Parse(text)
 	for _, side := range [][]api.Agent{p.Left, p.Right} {
@@ -264,7 +264,7 @@ func TestAnswersShareNothing(t *testing.T) {
 }
 
 // Whatever words stand in whatever order: no call panics, and what is read may be.
-func TestAllShortTexts(t *testing.T) {
+func TestX1AllShortTexts(t *testing.T) {
 	words := []string{"left", "right", "a", "b", "2", "0", ":", "\n", "#"}
 	var try func(text string, deep int)
 	try = func(text string, deep int) {
