@@ -7,6 +7,7 @@ import (
 	"strings"
 
 	"agora/api"
+	"agora/orders"
 )
 
 // May says whether two sides may be.
@@ -36,15 +37,7 @@ func mayAgent(a api.Agent, ahead []api.Agent, others int) api.Errno {
 	case a.Room < 1 || a.Room > api.MaxRoom:
 		return api.ErrValue
 	}
-	for i, k := range a.Likes {
-		if k < 0 || k >= others {
-			return api.ErrWho
-		}
-		if slices.Contains(a.Likes[:i], k) {
-			return api.ErrDouble
-		}
-	}
-	return api.OK
+	return orders.MaySome(a.Likes, others)
 }
 
 // Rank is how much an agent likes another one: 0 the best; one that it does not like: -1.

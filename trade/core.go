@@ -4,6 +4,7 @@ import (
 	"slices"
 
 	"agora/api"
+	"agora/orders"
 )
 
 // Core says whether no traders can do better with their own things: that each of them has something no worse, and one of them something better. Else the first such set, bit by bit.
@@ -11,7 +12,7 @@ func Core(wishes [][]int, got []int) (ok bool, who int, e api.Errno) {
 	if e := May(wishes); e != api.OK {
 		return false, 0, e
 	}
-	if e := mayOrder(got, len(wishes)); e != api.OK {
+	if e := orders.May(got, len(wishes)); e != api.OK {
 		return false, 0, e
 	}
 	for set := range 1 << len(wishes) {

@@ -33,8 +33,8 @@ func (d *die) wishes(n int) [][]int {
 	return w
 }
 
-// orders are all orders of n.
-func orders(n int) [][]int {
+// everyOrder are all orders of n.
+func everyOrder(n int) [][]int {
 	all := [][]int{nil}
 	for k := range n {
 		var longer [][]int
@@ -54,7 +54,7 @@ func everyWishes(n int) [][][]int {
 	for range n {
 		var longer [][][]int
 		for _, w := range all {
-			for _, o := range orders(n) {
+			for _, o := range everyOrder(n) {
 				longer = append(longer, append(slices.Clone(w), o))
 			}
 		}
@@ -87,7 +87,7 @@ func likes(wish []int, a, b int) bool { return slices.Index(wish, a) < slices.In
 func blocked(wishes [][]int, got []int) int {
 	n := len(wishes)
 	for set := 1; set < 1<<n; set++ {
-		for _, o := range orders(n) {
+		for _, o := range everyOrder(n) {
 			fine, gain := true, false
 			for k, thing := range o {
 				if set>>k&1 == 1 {
@@ -193,7 +193,7 @@ func TestT2RoundsIsTheCore(t *testing.T) {
 		if e != api.OK || blocked(w, got) != 0 {
 			t.Fatalf("Rounds(%v) = %v, %d: blocked by %d", w, got, e, blocked(w, got))
 		}
-		for _, o := range orders(len(w)) {
+		for _, o := range everyOrder(len(w)) {
 			if ok, _, e := Core(w, o); e != api.OK || ok != same(o, got) {
 				t.Fatalf("Core(%v, %v) = %v, %d, where Rounds gives %v", w, o, ok, e, got)
 			}
@@ -213,7 +213,7 @@ func TestT2RoundsIsHonest(t *testing.T) {
 	for _, w := range all {
 		honest, _ := Rounds(w)
 		for k := range w {
-			for _, lie := range orders(len(w)) {
+			for _, lie := range everyOrder(len(w)) {
 				told := slices.Clone(w)
 				told[k] = lie
 				if got, _ := Rounds(told); likes(w[k], got[k], honest[k]) {
@@ -477,7 +477,7 @@ func TestT4Core(t *testing.T) {
 func TestT4FirstSet(t *testing.T) {
 	d := die(5)
 	for _, w := range everyWishes(3) {
-		for _, got := range orders(3) {
+		for _, got := range everyOrder(3) {
 			checkCore(t, w, got)
 		}
 	}
