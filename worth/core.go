@@ -6,6 +6,7 @@ import (
 	"agora/api"
 	"agora/exact"
 	"agora/line"
+	"agora/lists"
 )
 
 // Core says whether all together get what they are worth, and no set less than it is: else the first set that does (all together: the last set).
@@ -35,7 +36,7 @@ func Balanced(v []int, weights []api.Q) (bool, api.Errno) {
 	if len(weights) != len(v) {
 		return false, api.ErrCount
 	}
-	if slices.ContainsFunc(weights, func(w api.Q) bool { return exact.Cmp(w, "0") < 0 }) {
+	if lists.Below(weights) {
 		return false, api.OK
 	}
 	for p := range players {
@@ -43,7 +44,7 @@ func Balanced(v []int, weights []api.Q) (bool, api.Errno) {
 			return false, api.OK
 		}
 	}
-	return exact.Cmp(exact.Dot(weights, fractions(v)), exact.Of(v[len(v)-1])) > 0, api.OK
+	return exact.Cmp(exact.Dot(weights, lists.Of(v)), exact.Of(v[len(v)-1])) > 0, api.OK
 }
 
 // Find is a share in the core; or, if there is none, weights of sets by which each player weighs 1, and that are worth more than all together.
@@ -112,12 +113,4 @@ func sumOf(l []api.Q, counts func(place int) bool) api.Q {
 		}
 	}
 	return sum
-}
-
-func fractions(v []int) []api.Q {
-	var l []api.Q
-	for _, n := range v {
-		l = append(l, exact.Of(n))
-	}
-	return l
 }
